@@ -2,7 +2,6 @@ package bench
 
 import (
 	"iter"
-	"slices"
 
 	"meterworks/api"
 )
@@ -38,8 +37,12 @@ func (t table) corners(s api.Span) iter.Seq[fraction] {
 
 // within returns the bounds of the values in a span.
 func (t table) within(s api.Span) bounds {
-	least, greatest := ends(fraction.compare, slices.Collect(t.corners(s))...)
-	return bounds{least, greatest}
+	first := t.at(s.Lo)
+	b := bounds{first, first}
+	for value := range t.corners(s) {
+		b.least, b.greatest = ends(fraction.compare, b.least, b.greatest, value)
+	}
+	return b
 }
 
 // reaches reports whether a span is valid, and not beyond the first or the last mark.
