@@ -47,6 +47,9 @@ func wrong(index int, e api.Errno) lives { return lives{index: index, e: e} }
 // tell follows each seal from day to day.
 func tell(s api.Stock) lives {
 	out := lives{seals: map[int]*life{}}
+	if hasNoSeal(s) {
+		return wrong(0, api.ErrArg)
+	}
 	for i, r := range s.Seals {
 		for n := r.From; n <= r.To; n++ {
 			if out.seals[n] != nil {
@@ -80,6 +83,23 @@ func tell(s api.Stock) lives {
 		}
 	}
 	return out
+}
+
+// hasNoSeal reports whether a broken seal, or one of a proof, has a number that no row of any stock has.
+func hasNoSeal(s api.Stock) bool {
+	named := []int{}
+	for _, b := range s.Broken {
+		named = append(named, b[0])
+	}
+	for _, p := range s.Proofs {
+		named = append(named, p.Seals...)
+	}
+	for _, n := range named {
+		if n < 1 || n > api.MaxSeal {
+			return true
+		}
+	}
+	return false
 }
 
 func (out lives) proofError(p api.Proof) api.Errno {

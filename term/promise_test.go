@@ -73,6 +73,7 @@ func TestAgainstEachSeal(t *testing.T) {
 	for _, c := range []checked{
 		{false, false, api.ErrTwice}, {true, false, api.ErrNone}, {true, false, api.ErrTwice}, {true, false, api.ErrOrder},
 		{true, true, api.ErrNone}, {true, true, api.ErrRefuse}, {true, true, api.ErrTwice}, {true, true, api.ErrState},
+		{true, false, api.ErrArg}, {true, true, api.ErrArg},
 	} {
 		if seen[c] < 5 {
 			t.Error("the stocks are too much alike", c, seen)

@@ -6,6 +6,9 @@ func isFrom(n, least, most int) bool { return n >= least && n <= most }
 
 func isDay(n int) bool { return isFrom(n, 0, api.MaxDay) }
 
+// isSeal reports whether a row can have a seal with this number.
+func isSeal(n int) bool { return isFrom(n, 1, api.MaxSeal) }
+
 func isStock(s api.Stock) bool {
 	if len(s.Classes) > api.MaxClasses || len(s.Seals) > api.MaxSeals ||
 		len(s.Proofs) > api.MaxProofs || len(s.Broken) > api.MaxBroken {
@@ -27,7 +30,7 @@ func isStock(s api.Stock) bool {
 		}
 	}
 	for _, b := range s.Broken {
-		if !isDay(b[1]) {
+		if !isSeal(b[0]) || !isDay(b[1]) {
 			return false
 		}
 	}
@@ -40,10 +43,17 @@ func isClass(c api.Class) bool {
 }
 
 func isRow(s api.Seal, classes int) bool {
-	return isFrom(s.From, 1, s.To) && s.To <= api.MaxSeal && isFrom(s.Class, 0, classes-1) && isDay(s.Day)
+	return isSeal(s.From) && isSeal(s.To) && s.From <= s.To && isFrom(s.Class, 0, classes-1) && isDay(s.Day)
 }
 
 func isProof(p api.Proof, classes int) bool {
-	return isFrom(p.Class, 0, classes-1) && isDay(p.Day) &&
-		isFrom(len(p.Seals), 1, api.MaxSample) && isFrom(p.Failed, 0, 1<<len(p.Seals)-1)
+	if !isFrom(len(p.Seals), 1, api.MaxSample) {
+		return false
+	}
+	for _, seal := range p.Seals {
+		if !isSeal(seal) {
+			return false
+		}
+	}
+	return isFrom(p.Class, 0, classes-1) && isDay(p.Day) && isFrom(p.Failed, 0, 1<<len(p.Seals)-1)
 }

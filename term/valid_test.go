@@ -47,7 +47,16 @@ func TestWrongStocks(t *testing.T) {
 		"Failed of one more":          func(s *api.Stock) { s.Proofs[0].Failed = 8 },
 		"Failed of one more than one": func(s *api.Stock) { s.Proofs[2].Failed = 2 },
 		"Failed of far more":          func(s *api.Stock) { s.Proofs[2].Failed = math.MaxInt },
+		"a proof of the seal 0":       func(s *api.Stock) { s.Proofs[2].Seals[0] = 0 },
+		"a proof of a seal too great": func(s *api.Stock) { s.Proofs[1].Seals[1] = api.MaxSeal + 1 },
+		"a proof of far too little":   func(s *api.Stock) { s.Proofs[0].Seals[2] = math.MinInt },
+		"a proof of far too great":    func(s *api.Stock) { s.Proofs[0].Seals[1] = math.MaxInt },
 		"too many broken seals":       func(s *api.Stock) { s.Broken = manyOf(api.MaxBroken+1, [2]int{50, 1000}) },
+		"the seal 0 broken":           func(s *api.Stock) { s.Broken[1][0] = 0 },
+		"a seal below 0 broken":       func(s *api.Stock) { s.Broken[0][0] = -1 },
+		"a seal too great broken":     func(s *api.Stock) { s.Broken[0][0] = api.MaxSeal + 1 },
+		"far too little broken":       func(s *api.Stock) { s.Broken[1][0] = math.MinInt },
+		"far too great broken":        func(s *api.Stock) { s.Broken[0][0] = math.MaxInt },
 		"broken before all days":      func(s *api.Stock) { s.Broken[0][1] = -1 },
 		"broken after all days":       func(s *api.Stock) { s.Broken[1][1] = api.MaxDay + 1 },
 	}
@@ -141,8 +150,17 @@ func TestEmptyStocks(t *testing.T) {
 		checkCount(t, "empty", s, 5, []int{0, 0, 0, 0}, api.OK)
 		checkDue(t, "empty", s, span(0, 5), make([]int, len(s.Classes)), api.OK)
 	}
-	checkCheck(t, "a broken seal alone", api.Stock{Broken: [][2]int{{1, 1}}}, 0, api.ErrNone)
-	checkCheck(t, "a proof alone", api.Stock{Classes: []api.Class{class(1, 0, 1, 0)}, Proofs: []api.Proof{proof(0, 0, 0, 1)}}, 0, api.ErrNone)
+}
+
+// P7.1 to P7.5: a number that a row can have, but none has, is ErrNone; any other one makes the stock not valid, also without rows.
+func TestNumbersAlone(t *testing.T) {
+	for n, e := range map[int]api.Errno{
+		1: api.ErrNone, api.MaxSeal: api.ErrNone,
+		0: api.ErrArg, -1: api.ErrArg, math.MinInt: api.ErrArg, api.MaxSeal + 1: api.ErrArg, math.MaxInt: api.ErrArg,
+	} {
+		checkWrong(t, "a broken seal alone", api.Stock{Broken: [][2]int{{n, 0}}}, 0, e)
+		checkWrong(t, "a proof alone", api.Stock{Classes: []api.Class{class(1, 0, 1, 0)}, Proofs: []api.Proof{proof(0, 0, 0, n)}}, 0, e)
+	}
 }
 
 // clone returns a stock that shares no memory with another one.
