@@ -104,7 +104,7 @@ func (l layer) rangesOverFunctions(d *ast.FuncDecl) bool {
 
 // The chapters of these layers ask for an iterator that is ranged over.
 func TestIteratorsAreRangedOver(t *testing.T) {
-	for _, name := range []string{"gear", "drum", "curve", "bench", "travel", "lot", "term", "size", "zone", "step", "sound", "card"} {
+	for _, name := range []string{"gear", "drum", "curve", "bench", "travel", "lot", "term", "size", "zone", "step", "sound", "card", "bill"} {
 		l := load(t, name)
 		found := false
 		for _, d := range l.reached() {
